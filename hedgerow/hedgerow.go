@@ -1,0 +1,79 @@
+// Package hedgerow: rectangles in a tree of boxes: see DOC.md.
+package hedgerow
+
+import "hedgerow/api"
+
+// Tree keeps things, each with a rectangle.
+type Tree struct {
+	things map[int]api.Rect
+}
+
+// New makes a tree (P3).
+func New(fan int) (*Tree, api.Errno) {
+	if !isFan(fan) {
+		return nil, api.ErrArg
+	}
+	return &Tree{things: make(map[int]api.Rect)}, api.OK
+}
+
+// Put gives a thing a rectangle (P4).
+func (t *Tree) Put(id int, r api.Rect) api.Errno {
+	// P1 asks for the error that P4 names first: the order of these cases is that of P4.
+	switch {
+	case !isID(id):
+		return api.ErrArg
+	case !isRect(r):
+		return api.ErrRect
+	case !t.has(id) && t.Len() >= api.MaxThings:
+		return api.ErrFull
+	}
+	t.things[id] = r
+	return api.OK
+}
+
+// Drop takes a thing out (P4).
+func (t *Tree) Drop(id int) api.Errno {
+	if !t.has(id) {
+		return api.ErrNone
+	}
+	delete(t.things, id)
+	return api.OK
+}
+
+// Get tells a thing's rectangle (P4).
+func (t *Tree) Get(id int) (api.Rect, api.Errno) {
+	r, ok := t.things[id]
+	if !ok {
+		return api.Rect{}, api.ErrNone
+	}
+	return r, api.OK
+}
+
+// Len tells how many things there are (P4).
+func (t *Tree) Len() int { return len(t.things) }
+
+func (t *Tree) has(id int) bool {
+	_, ok := t.things[id]
+	return ok
+}
+
+// Meets tells the things that have a place in common with a window (P5).
+func (t *Tree) Meets(window api.Rect) ([]int, api.Errno) { return nil, api.OK }
+
+// Within tells the things that lie in a window (P5).
+func (t *Tree) Within(window api.Rect) ([]int, api.Errno) { return nil, api.OK }
+
+// Pairs tells how many pairs of things have a place in common (P5).
+func (t *Tree) Pairs() int { return 0 }
+
+// Nearest tells the things that are nearest to a place (P6).
+func (t *Tree) Nearest(x int, y int, most int) ([]api.Hit, api.Errno) { return nil, api.OK }
+
+// Height tells how many levels the tree has (P7).
+func (t *Tree) Height() int { return 0 }
+
+// Log tells all that was put and dropped (P8).
+func (t *Tree) Log() []byte { return nil }
+
+// Replay makes a tree of a log (P9).
+func Replay(log []byte) (*Tree, int, api.Errno) { return nil, 0, api.OK }
