@@ -77,6 +77,73 @@ func dropAllEdges(t *testing.T, tree *hedgerow.Tree, held model) {
 	}
 }
 
+func windowsAtAllEdges(t *testing.T, tree *hedgerow.Tree, held model) {
+	t.Helper()
+	for w := range edgeRects {
+		if (model{}).put(0, w) != api.OK {
+			wantNoWindow(t, tree, w)
+			continue
+		}
+		wantMeets(t, tree, w, held.meets(w)...)
+		wantWithin(t, tree, w, held.within(w)...)
+	}
+}
+
+func nearestAtAllEdges(t *testing.T, tree *hedgerow.Tree, held model) {
+	t.Helper()
+	for _, x := range edgeCoords {
+		for _, y := range edgeCoords {
+			for _, most := range []int{smallest, -1 << 32, -1, 0, 1, maxThings, maxThings + 1, 1 << 32, greatest} {
+				if most < 0 || max(x, y) > maxCoord || min(x, y) < -maxCoord {
+					wantNoNearest(t, tree, x, y, most)
+				} else {
+					wantNearest(t, tree, x, y, most, held.nearest(x, y, most)...)
+				}
+			}
+		}
+	}
+}
+
+func TestFindingAtEveryEdgeInTreesOfManySizes(t *testing.T) {
+	for _, fan := range []int{4, 16} {
+		for _, count := range []int{0, 1, maxThings} {
+			tree := newTree(t, fan)
+			held := fill(t, tree, count)
+			if count > 0 {
+				held[0] = rect(-maxCoord, -1, maxCoord, 1)
+				wantPut(t, tree, 0, held[0], api.OK)
+			}
+			height := tree.Height()
+			windowsAtAllEdges(t, tree, held)
+			nearestAtAllEdges(t, tree, held)
+			wantAll(t, tree, held)
+			wantPairs(t, tree, held.pairs())
+			if h := tree.Height(); h != height {
+				t.Fatalf("finding made the height %d of %d", h, height)
+			}
+		}
+	}
+}
+
+func TestErrorsChangeNothingThatIsFound(t *testing.T) {
+	tree := newTree(t, 4)
+	held := fill(t, tree, maxThings)
+	height, pairs := tree.Height(), held.pairs()
+	wantPut(t, tree, -1, rect(0, 0, 1, 1), api.ErrArg)
+	wantPut(t, tree, 0, rect(1, 0, 0, 0), api.ErrRect)
+	wantPut(t, tree, 1, rect(0, 0, 1, 1), api.ErrFull)
+	wantDrop(t, tree, 1, api.ErrNone)
+	wantNoWindow(t, tree, rect(1, 0, 0, 0))
+	wantNoNearest(t, tree, 0, 0, -1)
+	wantAll(t, tree, held)
+	wantFound(t, tree, held, rect(0, 0, 1, 1))
+	wantFound(t, tree, held, everywhere)
+	wantPairs(t, tree, pairs)
+	if h := tree.Height(); h != height {
+		t.Fatalf("errors made the height %d of %d", h, height)
+	}
+}
+
 func TestEveryEdgeInTreesOfManySizes(t *testing.T) {
 	for _, count := range []int{0, 1, maxThings - 1, maxThings} {
 		tree := newTree(t, 4)

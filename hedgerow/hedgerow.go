@@ -1,11 +1,14 @@
 // Package hedgerow: rectangles in a tree of boxes: see DOC.md.
 package hedgerow
 
-import "hedgerow/api"
+import (
+	"hedgerow/api"
+	"hedgerow/boxes"
+)
 
 // Tree keeps things, each with a rectangle.
 type Tree struct {
-	things map[int]api.Rect
+	things *boxes.Tree
 }
 
 // New makes a tree (P3).
@@ -13,7 +16,7 @@ func New(fan int) (*Tree, api.Errno) {
 	if !isFan(fan) {
 		return nil, api.ErrArg
 	}
-	return &Tree{things: make(map[int]api.Rect)}, api.OK
+	return &Tree{things: boxes.New(fan)}, api.OK
 }
 
 // Put gives a thing a rectangle (P4).
@@ -27,7 +30,7 @@ func (t *Tree) Put(id int, r api.Rect) api.Errno {
 	case !t.has(id) && t.Len() >= api.MaxThings:
 		return api.ErrFull
 	}
-	t.things[id] = r
+	t.things.Put(id, r)
 	return api.OK
 }
 
@@ -36,13 +39,13 @@ func (t *Tree) Drop(id int) api.Errno {
 	if !t.has(id) {
 		return api.ErrNone
 	}
-	delete(t.things, id)
+	t.things.Drop(id)
 	return api.OK
 }
 
 // Get tells a thing's rectangle (P4).
 func (t *Tree) Get(id int) (api.Rect, api.Errno) {
-	r, ok := t.things[id]
+	r, ok := t.things.Get(id)
 	if !ok {
 		return api.Rect{}, api.ErrNone
 	}
@@ -50,27 +53,42 @@ func (t *Tree) Get(id int) (api.Rect, api.Errno) {
 }
 
 // Len tells how many things there are (P4).
-func (t *Tree) Len() int { return len(t.things) }
+func (t *Tree) Len() int { return t.things.Len() }
 
 func (t *Tree) has(id int) bool {
-	_, ok := t.things[id]
+	_, ok := t.things.Get(id)
 	return ok
 }
 
 // Meets tells the things that have a place in common with a window (P5).
-func (t *Tree) Meets(window api.Rect) ([]int, api.Errno) { return nil, api.OK }
+func (t *Tree) Meets(window api.Rect) ([]int, api.Errno) {
+	if !isRect(window) {
+		return nil, api.ErrRect
+	}
+	return t.things.Meeting(window), api.OK
+}
 
 // Within tells the things that lie in a window (P5).
-func (t *Tree) Within(window api.Rect) ([]int, api.Errno) { return nil, api.OK }
+func (t *Tree) Within(window api.Rect) ([]int, api.Errno) {
+	if !isRect(window) {
+		return nil, api.ErrRect
+	}
+	return t.things.Within(window), api.OK
+}
 
 // Pairs tells how many pairs of things have a place in common (P5).
-func (t *Tree) Pairs() int { return 0 }
+func (t *Tree) Pairs() int { return t.things.Pairs() }
 
 // Nearest tells the things that are nearest to a place (P6).
-func (t *Tree) Nearest(x int, y int, most int) ([]api.Hit, api.Errno) { return nil, api.OK }
+func (t *Tree) Nearest(x int, y int, most int) ([]api.Hit, api.Errno) {
+	if !isPlace(x, y) || most < 0 {
+		return nil, api.ErrArg
+	}
+	return t.things.Nearest(x, y, most), api.OK
+}
 
 // Height tells how many levels the tree has (P7).
-func (t *Tree) Height() int { return 0 }
+func (t *Tree) Height() int { return t.things.Height() }
 
 // Log tells all that was put and dropped (P8).
 func (t *Tree) Log() []byte { return nil }

@@ -37,6 +37,10 @@ func oneCall(t *testing.T, tree *hedgerow.Tree, held model, d *dice) {
 	}
 	wantOne(t, tree, id, held)
 	wantLen(t, tree, len(held))
+	if d.below(20) == 0 {
+		x, y := d.below(2000)-1000, d.below(2000)-1000
+		wantFound(t, tree, held, rect(x, y, x+d.below(500), y+d.below(500)))
+	}
 }
 
 func TestTreesUsedInTurns(t *testing.T) {
@@ -53,6 +57,8 @@ func TestTreesUsedInTurns(t *testing.T) {
 	}
 	for i := range trees {
 		wantAll(t, trees[i], models[i])
+		wantPairs(t, trees[i], models[i].pairs())
+		wantHeight(t, trees[i], 4+i, len(models[i]))
 	}
 }
 
@@ -63,7 +69,26 @@ func TestTwoTreesOfOneFanShareNothing(t *testing.T) {
 	wantPut(t, b, 1, rect(2, 2, 3, 3), api.OK)
 	wantDrop(t, a, 1, api.OK)
 	wantAll(t, a, model{})
+	wantMeets(t, a, everywhere)
+	wantNearest(t, a, 0, 0, 5)
 	wantAll(t, b, model{1: rect(2, 2, 3, 3)})
+	wantMeets(t, b, everywhere, 1)
+	wantNearest(t, b, 0, 0, 5, hit(1, 8))
+}
+
+func TestTheSameCallsGiveTheSameTree(t *testing.T) {
+	for fan := 4; fan <= 16; fan++ {
+		a, b := newTree(t, fan), newTree(t, fan)
+		heldA, heldB := model{}, model{}
+		var forA, forB dice = 7, 7
+		for range 1500 {
+			oneCall(t, a, heldA, &forA)
+			oneCall(t, b, heldB, &forB)
+			if h, k := a.Height(), b.Height(); h != k {
+				t.Fatalf("the same calls make heights %d and %d, by fan %d", h, k, fan)
+			}
+		}
+	}
 }
 
 func TestAFullTreeLeavesRoomInAnother(t *testing.T) {
