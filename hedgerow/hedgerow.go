@@ -4,11 +4,13 @@ package hedgerow
 import (
 	"hedgerow/api"
 	"hedgerow/boxes"
+	"hedgerow/records"
 )
 
 // Tree keeps things, each with a rectangle.
 type Tree struct {
 	things *boxes.Tree
+	log    []byte
 }
 
 // New makes a tree (P3).
@@ -16,20 +18,28 @@ func New(fan int) (*Tree, api.Errno) {
 	if !isFan(fan) {
 		return nil, api.ErrArg
 	}
-	return &Tree{things: boxes.New(fan)}, api.OK
+	t := &Tree{things: boxes.New(fan)}
+	t.write(records.Record{Kind: records.Head, Fan: fan})
+	return t, api.OK
 }
 
 // Put gives a thing a rectangle (P4).
 func (t *Tree) Put(id int, r api.Rect) api.Errno {
+	there := t.has(id)
 	// P1 asks for the error that P4 names first: the order of these cases is that of P4.
 	switch {
 	case !isID(id):
 		return api.ErrArg
 	case !isRect(r):
 		return api.ErrRect
-	case !t.has(id) && t.Len() >= api.MaxThings:
+	case !there && t.Len() >= api.MaxThings:
 		return api.ErrFull
 	}
+	kind := records.Put
+	if there {
+		kind = records.Move
+	}
+	t.write(records.Record{Kind: kind, ID: id, Rect: r})
 	t.things.Put(id, r)
 	return api.OK
 }
@@ -39,6 +49,7 @@ func (t *Tree) Drop(id int) api.Errno {
 	if !t.has(id) {
 		return api.ErrNone
 	}
+	t.write(records.Record{Kind: records.Drop, ID: id})
 	t.things.Drop(id)
 	return api.OK
 }
@@ -89,9 +100,3 @@ func (t *Tree) Nearest(x int, y int, most int) ([]api.Hit, api.Errno) {
 
 // Height tells how many levels the tree has (P7).
 func (t *Tree) Height() int { return t.things.Height() }
-
-// Log tells all that was put and dropped (P8).
-func (t *Tree) Log() []byte { return nil }
-
-// Replay makes a tree of a log (P9).
-func Replay(log []byte) (*Tree, int, api.Errno) { return nil, 0, api.OK }
